@@ -1,0 +1,1 @@
+"""Broke and water that come round: where the fibre of a loop goes."""
