@@ -3,18 +3,7 @@
 import unittest
 
 from brokeloop.loop import tick
-
-NAMES = ("keep", "lose", "broke", "w", "r", "a")
-BOUNDS = (1000, 1000, 1000, 1000000, 1000000, 100000)
-ORDINARY = (800, 100, 50, 200, 100, 700)
-HIGHEST = 4294967295
-
-
-def with_number(numbers, place, number):
-    """The same numbers with one of them replaced."""
-    changed = list(numbers)
-    changed[place] = number
-    return changed
+from loop_numbers import BOUNDS, HIGHEST, NAMES, ORDINARY, check_kinds, check_second_call, with_number
 
 
 class OrdinaryTicks(unittest.TestCase):
@@ -194,22 +183,12 @@ class Answers(unittest.TestCase):
     def test_a_list_of_whole_numbers(self):
         for numbers, length in ((ORDINARY, 4), ((0, 0, 0, 0, 0, 0), 4), ((1001, 0, 0, 0, 0, 0), 1)):
             with self.subTest(numbers=numbers):
-                answer = tick(*numbers)
-                self.assertIs(type(answer), list)
-                self.assertEqual([type(number) for number in answer], [int] * length)
+                check_kinds(self, tick, numbers, length)
 
     def test_a_second_call_gives_the_same_in_a_list_of_its_own(self):
         for numbers, answer in ((ORDINARY, [760, 20, 180, 40]), ((1001, 0, 0, 0, 0, 0), [-22])):
             with self.subTest(numbers=numbers):
-                first = tick(*numbers)
-                second = tick(*numbers)
-                self.assertEqual(first, answer)
-                self.assertEqual(second, answer)
-                self.assertIsNot(first, second)
-                first.append(7)
-                first[0] = 8
-                self.assertEqual(second, answer)
-                self.assertEqual(tick(*numbers), answer)
+                check_second_call(self, tick, numbers, answer)
 
     def test_a_call_between_changes_nothing(self):
         self.assertEqual(tick(*ORDINARY), [760, 20, 180, 40])
