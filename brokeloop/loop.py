@@ -4,6 +4,7 @@ WHOLE = 1000
 MOST_FIBRE = 1000000
 MOST_FED = 100000
 MOST_TICKS = 1000
+STEADY_WITHIN = 1000
 
 
 def share(amount, thousandths):
@@ -49,3 +50,22 @@ def run(keep, lose, broke, w, r, a, n):
         water = parts[2]
         torn = parts[3]
     return [sold, lost, water, torn]
+
+
+def steady(keep, lose, broke, a):
+    """When an empty loop is first steady: [behind how many ticks, in the water, in the broke, sold, lost].
+
+    [-22] as of tick; [-33] where it is not steady behind fewer than 1,000 ticks.
+    """
+    if above_bounds(keep, lose, broke, 0, 0, a):
+        return [-22]
+    water = 0
+    torn = 0
+    for ticks in range(STEADY_WITHIN):
+        parts = part_fibre(keep, lose, broke, a + water + torn)
+        if parts[2] == water and parts[3] == torn:
+            # Of the tick that leaves the loop the same: the one ahead of it may have sold and lost less.
+            return [ticks, water, torn, parts[0], parts[1]]
+        water = parts[2]
+        torn = parts[3]
+    return [-33]

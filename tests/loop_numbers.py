@@ -1,9 +1,14 @@
-"""What the tests of tick and of run both need: the numbers handed in, their bounds, and checks of any answer."""
+"""What the tests of tick, run and steady all need: the numbers handed in, their bounds, and checks of any answer."""
+
+import itertools
 
 NAMES = ("keep", "lose", "broke", "w", "r", "a")
 BOUNDS = (1000, 1000, 1000, 1000000, 1000000, 100000)
 ORDINARY = (800, 100, 50, 200, 100, 700)
 HIGHEST = 4294967295
+
+THOUSANDTHS = (0, 1, 333, 500, 999, 1000)
+SETTINGS = tuple(itertools.product(THOUSANDTHS, repeat=3))
 
 
 def with_number(numbers, place, number):

@@ -5,15 +5,12 @@ import unittest
 
 import loop_numbers
 from brokeloop.loop import run, tick
-from loop_numbers import HIGHEST, check_kinds, check_second_call, with_number
+from loop_numbers import HIGHEST, SETTINGS, check_kinds, check_second_call, with_number
 
 NAMES = loop_numbers.NAMES + ("n",)
 BOUNDS = loop_numbers.BOUNDS + (1000,)
 ORDINARY = loop_numbers.ORDINARY + (2,)
 REFUSED = (800, 100, 50, 200, 100, 700, 1001)
-
-THOUSANDTHS = (0, 1, 333, 500, 999, 1000)
-SETTINGS = tuple(itertools.product(THOUSANDTHS, repeat=3))
 
 
 def tick_by_tick(keep, lose, broke, w, r, a, n):

@@ -1,9 +1,9 @@
-"""Promise 1, as far as it is a tick's. Answers are [sold, lost, in the water, in the broke]."""
+"""Promises 1 and 3, as far as they are a tick's. Answers are [sold, lost, in the water, in the broke]."""
 
 import unittest
 
 from brokeloop.loop import tick
-from loop_numbers import BOUNDS, HIGHEST, NAMES, ORDINARY, check_kinds, check_second_call, with_number
+from loop_numbers import BOUNDS, HIGHEST, NAMES, ORDINARY, SETTINGS, check_kinds, check_second_call, with_number
 
 
 class OrdinaryTicks(unittest.TestCase):
@@ -177,6 +177,34 @@ class WrongInputs(unittest.TestCase):
     def test_all_above_their_bounds(self):
         self.assertEqual(tick(*[bound + 1 for bound in BOUNDS]), [-22])
         self.assertEqual(tick(*[HIGHEST] * 6), [-22])
+
+
+class WhatHolds(unittest.TestCase):
+    def test_what_is_fed_and_was_in_the_loop_is_sold_lost_or_in_the_loop(self):
+        for setting in SETTINGS:
+            for w, r, a in ((0, 0, 0), (0, 0, 777), (20, 11, 70), (1000000, 999999, 0), (1000000, 999999, 100000)):
+                with self.subTest(setting=setting, w=w, r=r, a=a):
+                    answer = tick(*setting, w, r, a)
+                    self.assertEqual(sum(answer), w + r + a)
+                    self.assertGreaterEqual(min(answer), 0)
+
+    def test_more_fed_no_less_sold(self):
+        for setting in SETTINGS:
+            for w, r in ((0, 0), (20, 11), (1000000, 999999)):
+                with self.subTest(setting=setting, w=w, r=r):
+                    sold = [tick(*setting, w, r, a)[0] for a in (*range(60), 999, 1000, 1001, 99999, 100000)]
+                    self.assertEqual(sold, sorted(sold))
+
+    def test_from_an_empty_loop_on_never_less_in_it_than_before(self):
+        for setting in SETTINGS:
+            for a in (0, 1, 777):
+                with self.subTest(setting=setting, a=a):
+                    w, r = 0, 0
+                    inside = [0]
+                    for _ in range(40):
+                        w, r = tick(*setting, w, r, a)[2:]
+                        inside.append(w + r)
+                    self.assertEqual(inside, sorted(inside))
 
 
 class Answers(unittest.TestCase):
